@@ -179,7 +179,7 @@ func TestAllShortBodies(t *testing.T) {
 			least, _ := bounds.Least(l, m)
 			for every := least; every < p.Every; every++ {
 				above++
-				if q, ok := smallerPlan(t, l, m, every, min(2*drainedTold(t, l, m, cycles)/every*every, 24)); ok {
+				if q, ok := smallerPlan(t, l, m, every, 2*drainedTold(t, l, m, cycles)/every*every); ok {
 					t.Errorf("Find(%v, %v) is %v, and %v goes too", l, m, p, q)
 				}
 			}
